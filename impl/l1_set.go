@@ -168,21 +168,30 @@ func SetFirst(s []Span) int {
 
 // SetText writes a set.
 func SetText(s []Span) string {
-	if len(s) == 0 {
-		return "no"
-	}
-	words := make([]string, len(s))
-	for i, p := range s {
-		words[i] = spanText(p)
-	}
-	return strings.Join(words, ",")
+	return string(addSetText(nil, s))
 }
 
-func spanText(p Span) string {
-	if p.Hi == p.Lo {
-		return strconv.Itoa(p.Lo)
+// addSetText writes behind what is there: the texts of many sets are asked for again and again, and to join words takes twice as long.
+func addSetText(text []byte, s []Span) []byte {
+	if len(s) == 0 {
+		return append(text, "no"...)
 	}
-	return strconv.Itoa(p.Lo) + "-" + strconv.Itoa(p.Hi)
+	for i, p := range s {
+		if i > 0 {
+			text = append(text, ',')
+		}
+		text = addSpanText(text, p)
+	}
+	return text
+}
+
+func addSpanText(text []byte, p Span) []byte {
+	text = strconv.AppendInt(text, int64(p.Lo), 10)
+	if p.Hi != p.Lo {
+		text = append(text, '-')
+		text = strconv.AppendInt(text, int64(p.Hi), 10)
+	}
+	return text
 }
 
 // SetRead reads a set.
